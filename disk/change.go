@@ -38,7 +38,7 @@ func (d *Disk) Append(name string, b []byte) api.Errno {
 	if f == nil && len(d.files) >= api.MaxFiles {
 		return api.ErrLong
 	}
-	if len(b) > d.room-d.Used() {
+	if len(b) > d.room-d.used {
 		return api.ErrFull
 	}
 	if f == nil {
@@ -47,6 +47,7 @@ func (d *Disk) Append(name string, b []byte) api.Errno {
 	}
 	// Ahead of the fuse: of these bytes a crash in the midst keeps as many as of any tail.
 	f.put(b)
+	d.used += len(b)
 	return d.burn()
 }
 
@@ -65,13 +66,14 @@ func (d *Disk) Sync(name string) api.Errno {
 
 // Remove takes a file away.
 func (d *Disk) Remove(name string) api.Errno {
-	if _, err := d.find(name); err != api.OK {
+	f, err := d.find(name)
+	if err != api.OK {
 		return err
 	}
 	if err := d.burn(); err != api.OK {
 		return err
 	}
-	delete(d.files, name)
+	d.drop(name, f)
 	return api.OK
 }
 
@@ -90,8 +92,17 @@ func (d *Disk) Rename(from, to string) api.Errno {
 	}
 	// In this order, a file that is renamed to its own name stays.
 	delete(d.files, from)
+	if over := d.files[to]; over != nil {
+		d.drop(to, over)
+	}
 	d.files[to] = f
 	return api.OK
+}
+
+// drop takes a file and its bytes off the disk.
+func (d *Disk) drop(name string, f *file) {
+	delete(d.files, name)
+	d.used -= f.size()
 }
 
 // Read are a file's bytes.

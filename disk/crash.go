@@ -19,8 +19,10 @@ func (d *Disk) burn() api.Errno {
 }
 
 func (d *Disk) fall(keep int) {
+	d.used = 0
 	for _, f := range d.files {
 		f.tear(keep)
+		d.used += f.size()
 	}
 	d.fuse = fuse{}
 	d.down = true
