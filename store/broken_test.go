@@ -197,6 +197,18 @@ func TestBrokenByALogAtItsEnd(t *testing.T) {
 	wantFace(t, "Accept", s, face{promised: ballot(1, 0), broken: true})
 }
 
+// TestBrokenByARecordThatIsTooLong: Open takes an entry that chapter 4 takes, but wal does not take it again.
+func TestBrokenByARecordThatIsTooLong(t *testing.T) {
+	d := logged(t, accepted(5, ballot(1, 0), sized(1<<17)), chosen(0, sample(1)))
+	s := opened(t, d)
+	before := look(t, s)
+	wantErr(t, "Checkpoint", s.Checkpoint(1, []byte("one")), api.ErrRecord)
+	want := before
+	want.broken = true
+	wantFace(t, "Checkpoint", s, want)
+	wantFace(t, "opened again", opened(t, d), before.behind(1, "one"))
+}
+
 // TestRefusedIsNotBroken: errors of arguments break nothing.
 func TestRefusedIsNotBroken(t *testing.T) {
 	d := full(t)
