@@ -13,8 +13,7 @@ func (s *Store) Checkpoint(slot int64, data []byte) api.Errno {
 	if err := s.ready(); err != api.OK {
 		return err
 	}
-	// Not above Upto and yet no slot is one number: where an entry is chosen for the last slot of all, the one behind it.
-	if slot <= s.First() || slot > s.upto || !isSlot(slot) {
+	if slot <= s.First() || slot > s.upto {
 		return api.ErrSlot
 	}
 	return s.advance(slot, data)
@@ -35,6 +34,10 @@ func (s *Store) Install(slot int64, data []byte) api.Errno {
 func (s *Store) advance(slot int64, data []byte) api.Errno {
 	if len(data) > api.MaxState {
 		return api.ErrLong
+	}
+	// Upto may be the number behind the last slot of all, at which no checkpoint may be. That is ckpt's to say, but no error of the disk: so it is asked here, where it breaks nothing.
+	if _, err := ckpt.Encode(slot, nil); err != api.OK {
+		return err
 	}
 	if err := s.heed(s.save(slot, data)); err != api.OK {
 		return err

@@ -7,6 +7,7 @@ import (
 	"testing"
 
 	"orchard/api"
+	"orchard/disk"
 	"orchard/store"
 )
 
@@ -238,6 +239,66 @@ func TestPromiseOfWhatIsCutOff(t *testing.T) {
 			}
 		}
 	}
+}
+
+// atTheEnd is a store, and its disk, in which the last slot of all is chosen, so that Upto is no slot.
+func atTheEnd(t *testing.T, first int64) (*disk.Disk, *store.Store) {
+	t.Helper()
+	d, s := fresh(t)
+	wantErr(t, "Install", s.Install(first, []byte("end")), api.OK)
+	wantErr(t, "Accept", s.Accept(ballot(4, 1), at(latest, sample(2))), api.OK)
+	for slot := first; slot <= latest; slot++ {
+		wantErr(t, "Choose", s.Choose(at(slot, sample(7))), api.OK)
+	}
+	if s.Upto() != latest+1 {
+		t.Fatalf("Upto is %d", s.Upto())
+	}
+	return d, s
+}
+
+// TestCheckpointBehindTheLastSlot: it is not above Upto, so that ckpt's word counts; by that the store is not broken.
+func TestCheckpointBehindTheLastSlot(t *testing.T) {
+	for _, first := range []int64{latest, latest - 1} {
+		d, s := atTheEnd(t, first)
+		check := func(what string) {
+			t.Helper()
+			for _, data := range [][]byte{nil, []byte("data"), make([]byte, longestState)} {
+				wantRefused(t, what+", ErrArg", d, s, api.ErrArg, func() api.Errno { return s.Checkpoint(latest+1, data) })
+			}
+			long := make([]byte, longestState+1)
+			wantRefused(t, what+", ErrLong", d, s, api.ErrLong, func() api.Errno { return s.Checkpoint(latest+1, long) })
+			for _, slot := range []int64{latest + 2, math.MaxInt64, first, -1, math.MinInt64} {
+				wantRefused(t, what+", ErrSlot", d, s, api.ErrSlot, func() api.Errno { return s.Checkpoint(slot, long) })
+			}
+			for _, slot := range []int64{latest, latest + 1, latest + 2, math.MaxInt64} {
+				wantRefused(t, what+", Install", d, s, api.ErrSlot, func() api.Errno { return s.Install(slot, nil) })
+			}
+		}
+		check("at the end")
+		s = opened(t, d)
+		check("at the end, opened again")
+		wantErr(t, "Accept goes on", s.Accept(ballot(4, 2), at(latest, sample(3))), api.OK)
+		wantReopened(t, "Accept goes on", d, s)
+	}
+	d, s := atTheEnd(t, latest-1)
+	want := look(t, s).behind(latest, "last")
+	wantErr(t, "behind the last slot", s.Checkpoint(latest+1, nil), api.ErrArg)
+	wantErr(t, "at the last slot", s.Checkpoint(latest, []byte("last")), api.OK)
+	wantFace(t, "at the last slot", s, want)
+	wantReopened(t, "at the last slot", d, s)
+}
+
+// TestCheckpointBehindTheLastSlotOfADiskThatIsDown: the disk is not asked, and does not break the store.
+func TestCheckpointBehindTheLastSlotOfADiskThatIsDown(t *testing.T) {
+	d, s := atTheEnd(t, latest-1)
+	before := look(t, s)
+	wantErr(t, "Crash", d.Crash(0), api.OK)
+	wantErr(t, "behind the last slot", s.Checkpoint(latest+1, nil), api.ErrArg)
+	wantFace(t, "behind the last slot", s, before)
+	wantErr(t, "at the last slot", s.Checkpoint(latest, nil), api.ErrDown)
+	wantErr(t, "of a store that is broken", s.Checkpoint(latest+1, nil), api.ErrBroken)
+	before.broken = true
+	wantFace(t, "of a store that is broken", s, before)
 }
 
 // TestCheckpointsFirstErrors: R2, ErrSlot ahead of ErrLong ahead of the disk's.

@@ -123,17 +123,11 @@ func TestChooseOfTheLastSlot(t *testing.T) {
 	want.chosen = append([]api.Slotted{with(latest-1, api.Ballot{}, sample(2))}, want.chosen...)
 	wantFace(t, "both", s, want)
 	wantReopened(t, "both", d, s)
-	none := func(slot int64) {
-		t.Helper()
-		wantRefused(t, "Checkpoint", d, s, api.ErrSlot, func() api.Errno { return s.Checkpoint(slot, nil) })
-		wantRefused(t, "Install", d, s, api.ErrSlot, func() api.Errno { return s.Install(slot, nil) })
+	for _, slot := range []int64{latest + 1, latest + 2} {
+		wantRefused(t, "Choose of no slot", d, s, api.ErrSlot, func() api.Errno { return s.Choose(at(slot, sample(1))) })
 	}
-	none(latest + 1)
-	none(latest + 2)
 	wantErr(t, "Checkpoint at the last one", s.Checkpoint(latest, nil), api.OK)
 	wantFace(t, "at the last one", s, face{first: latest, upto: latest + 1, chosen: want.chosen[1:]})
-	none(latest + 1)
-	none(latest)
 }
 
 // TestChooseIsNotAccept: what is chosen is neither accepted nor promised, and the other way about.

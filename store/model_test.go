@@ -268,6 +268,9 @@ func (m *model) advance(slot int64, data string) api.Errno {
 	if len(data) > 1<<19 {
 		return api.ErrLong
 	}
+	if _, err := ckpt.Encode(slot, []byte(data)); err != api.OK {
+		return err // ckpt.Save's, but not the disk's
+	}
 	next := m.log.Next()
 	behind := m.face().behind(slot, data)
 	err := m.asks(
@@ -316,6 +319,8 @@ func (p *pair) slot() int64 {
 		return latest - int64(p.src.below(2))
 	case k == 2:
 		return p.m.first - 1
+	case p.m.first >= latest-2:
+		return latest - int64(p.src.below(3))
 	}
 	return min(p.m.first, 30) + int64(p.src.below(10))
 }
@@ -375,6 +380,9 @@ func (p *pair) step(t *testing.T) (string, api.Errno, api.Errno) {
 			return "nothing", api.OK, api.OK
 		}
 		slot, data := p.m.upto()+int64(src.below(3)), strings.Repeat("i", src.below(200))
+		if src.below(4) == 0 {
+			slot = latest - int64(src.below(3)) // from there on it is not far to an Upto that is no slot
+		}
 		return fmt.Sprintf("Install(%d)", slot), p.s.Install(slot, []byte(data)), p.m.install(slot, data)
 	case 15, 16:
 		k, keep := src.below(9), src.below(60)
@@ -445,7 +453,7 @@ func runAtRandom(t *testing.T, seed uint64, steps int) {
 	src := source(seed)
 	p := newPair(t, &src, oneOf(&src, []int{roomy, roomy, 3000, 800}))
 	for i := range steps {
-		if p.m.upto() > 36 && p.m.first < latest-1 {
+		if p.m.upto() > 36 && p.m.first < latest-2 {
 			return // the probes end there
 		}
 		step, got, want := p.step(t)
