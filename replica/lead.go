@@ -111,9 +111,9 @@ func (r *Replica) lead() ([]api.Msg, api.Errno) {
 
 // acceptAll accepts here what it asks the others for, first in the store, then in its proposer.
 func (r *Replica) acceptAll(l ...api.Slotted) api.Errno {
-	if err := r.Accept(r.proposer.Ballot(), l...); err != api.OK {
-		// What the store has refused it has not accepted, and must not count.
-		return r.heed(err)
+	// What a store that is not broken refuses is passed over, and counted all the same: no store takes such an entry, so no replica of the group sends it.
+	if err := r.heed(r.Accept(r.proposer.Ballot(), l...)); err != api.OK {
+		return err
 	}
 	for _, x := range l {
 		if _, err := r.count(r.self(), x.Slot); err != api.OK {

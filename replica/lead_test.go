@@ -4,7 +4,11 @@ import (
 	"testing"
 
 	"orchard/api"
+	"orchard/disk"
+	"orchard/record"
 	"orchard/store"
+	"orchard/wal"
+	"orchard/wire"
 )
 
 // How one that stands comes to lead ("It stands", "It leads" and "It settles" of the chapter's words; MsPromise and MsRefuse of P10.4).
@@ -300,20 +304,119 @@ func TestItStandsAsItKnowsALeader(t *testing.T) {
 	o.refusedPropose(named(1), api.ErrLeader)
 }
 
-// TestTheStoreRefusesWhatIsTakenOver: one entry that no store takes; then it has accepted none of them, and counts itself for none; the others are asked all the same.
+// TestTheStoreRefusesWhatIsTakenOver: one entry that no store takes, wherever it stands among others. The refusal is passed over: the store has accepted none of them, but the replica counts itself for each, and asks the others all the same.
 func TestTheStoreRefusesWhatIsTakenOver(t *testing.T) {
-	o := fresh(t, 0, 3)
-	o.do(o.in(1, refuse(ballot(1, 1))))
-	b := o.stand(2, 0)
-	want := o.all(accept(b, 0, named(1)))
-	want = append(want, o.all(accept(b, 1, tooLong()))...)
-	o.step(o.in(1, promise(b, 0, with(0, ballot(1, 1), named(1)), with(1, ballot(1, 1), tooLong()))), append(want, o.all(beat(b, 0))...)...)
-	o.wantRole(api.RoleLead)
-	if _, is := o.s.Accepted(0); is {
-		t.Error("the store has accepted it")
+	for n := 2; n <= 5; n++ {
+		for at := range int64(4) {
+			o := fresh(t, 0, n)
+			o.do(o.in(1, refuse(ballot(1, 1))))
+			b := o.stand(2, 0)
+			l := run(0, 4, ballot(1, 1))
+			l[at].Entry = tooLong()
+			var want []api.Msg
+			for _, x := range l {
+				want = append(want, o.all(accept(b, x.Slot, x.Entry))...)
+			}
+			o.promises(b, l, append(want, o.all(beat(b, 0))...))
+			o.wantRole(api.RoleLead)
+			o.wantLeader(b)
+			for _, x := range l {
+				if _, is := o.s.Accepted(x.Slot); is {
+					t.Error("the store has accepted", x.Slot)
+				}
+			}
+			o.chosenByTheOthers(b, l)
+			for slot := range int64(4) {
+				if slot == at {
+					o.wantNotChosen(slot)
+				} else {
+					o.wantChosen(slot, named(slot+1))
+				}
+			}
+			// The proposer has it as chosen, and asks for nothing more.
+			o.wantUpto(at)
+			o.tick(o.all(beat(b, at))...)
+			o.propose(named(9), o.all(accept(b, 4, named(9)))...)
+		}
 	}
-	o.step(o.in(1, accepted(b, 0)))
-	o.step(o.in(2, accepted(b, 0)), o.all(chosen(with(0, b, named(1))))...)
+}
+
+// promises lets so many of the others promise that replica 0 comes to lead; the first one has accepted l.
+func (o *one) promises(b api.Ballot, l []api.Slotted, want []api.Msg) {
+	o.t.Helper()
+	most := o.c.N / 2
+	for i := 1; i < most; i++ {
+		o.step(o.in(i, promise(b, 0, l...)))
+		l = nil
+	}
+	o.step(o.in(most, promise(b, 0, l...)), want...)
+}
+
+// chosenByTheOthers: so many of them accept each of l that with replica 0 they are a majority, and no sooner is it chosen.
+func (o *one) chosenByTheOthers(b api.Ballot, l []api.Slotted) {
+	o.t.Helper()
+	most := o.c.N / 2
+	for _, x := range l {
+		for i := 1; i < most; i++ {
+			o.step(o.in(i, accepted(b, x.Slot)))
+			o.wantNotChosen(x.Slot)
+		}
+		o.step(o.in(most, accepted(b, x.Slot)), o.all(chosen(with(x.Slot, b, x.Entry)))...)
+		for i := 1; i < o.c.N; i++ {
+			o.step(o.in(i, accepted(b, x.Slot)))
+		}
+	}
+}
+
+// TestTheStoreHasPromisedMoreAsItLeads: behind its back; then the store's ErrLow is passed over likewise.
+func TestTheStoreHasPromisedMoreAsItLeads(t *testing.T) {
+	o := laid(t, 0, 3, func(s *store.Store) { s.Accept(ballot(1, 1), plain(0, named(1))) })
+	b := o.stand(2, 0)
+	if _, err := o.s.Prepare(ballot(3, 1), 0); err != api.OK {
+		t.Fatal("Prepare", err)
+	}
+	o.step(o.in(1, promise(b, 0)), append(o.all(accept(b, 0, named(1))), o.all(beat(b, 0))...)...)
+	o.wantRole(api.RoleLead)
+	o.wantAccepted(with(0, ballot(1, 1), named(1)))
+	o.chosenByTheOthers(b, listOf(plain(0, named(1))))
+	o.wantChosen(0, named(1))
+}
+
+// TestOneAloneTakesOverWhatItsStoreRefuses: its disk was written by somebody else; what its proposer has as chosen the store refuses once more, and the slots around it are chosen.
+func TestOneAloneTakesOverWhatItsStoreRefuses(t *testing.T) {
+	d := newDisk(t)
+	layAccepted(t, d, ballot(1, 0), plain(0, named(1)), plain(1, tooLong()), plain(2, named(3)))
+	o := over(t, d, 0, 1)
+	o.wantAccepted(with(1, ballot(1, 0), tooLong()))
+	o.quiet(4)
+	o.wantRole(api.RoleLead)
+	o.wantLeader(ballot(2, 0))
+	o.wantAccepted(with(0, ballot(1, 0), named(1)))
+	o.wantChosen(0, named(1))
+	o.wantNotChosen(1)
+	o.wantChosen(2, named(3))
+	o.propose(named(4))
+	o.wantChosen(3, named(4))
+	o.wantUpto(1)
+}
+
+// layAccepted writes what is accepted on a disk, as a store's log has it.
+func layAccepted(t *testing.T, d *disk.Disk, b api.Ballot, l ...api.Slotted) {
+	t.Helper()
+	log, err := wal.Open(d, "log")
+	wantErr(t, "wal.Open", err, api.OK)
+	for _, x := range l {
+		form, err := record.Entry(x.Entry)
+		wantErr(t, "record.Entry", err, api.OK)
+		w := wire.NewWriter()
+		w.Int(2)
+		w.Int(b.Round)
+		w.Int(int64(b.Replica))
+		w.Int(x.Slot)
+		w.Bytes(form)
+		wantErr(t, "Append", log.Append(w.Out()), api.OK)
+	}
+	wantErr(t, "Sync", log.Sync(), api.OK)
 }
 
 func TestALeaderTakesOverALongOne(t *testing.T) {

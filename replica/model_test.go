@@ -98,6 +98,7 @@ type model struct {
 	slot, many int64
 	parts      map[int]string
 	msgs       []api.Msg
+	passed     int // how often the store refused what a new leader took over
 }
 
 func modelOver(c api.Conf, d *disk.Disk) (*model, api.Errno) {
@@ -213,11 +214,12 @@ func (m *model) lead() {
 	for _, slot := range m.p.waiting(m.c.N) {
 		l = append(l, m.mine(slot))
 	}
-	if m.must(m.s.Accept(m.p.b, l...)) {
-		for _, x := range l {
-			if m.p.accepted(m.c.N, m.c.Self, x.Slot) {
-				m.must(m.s.Choose(x))
-			}
+	if !m.must(m.s.Accept(m.p.b, l...)) {
+		m.passed++
+	}
+	for _, x := range l {
+		if m.p.accepted(m.c.N, m.c.Self, x.Slot) {
+			m.must(m.s.Choose(x))
 		}
 	}
 	for _, x := range l {
@@ -430,10 +432,11 @@ type pair struct {
 
 // tally counts what was answered: so that it is seen whether random runs come to all of it.
 type tally struct {
-	errs  map[api.Errno]int
-	kinds map[int]int // messages
-	roles map[int]int
-	falls int // from leading to following
+	errs   map[api.Errno]int
+	kinds  map[int]int // messages
+	roles  map[int]int
+	falls  int // from leading to following
+	passed int // as the model counts it
 }
 
 func newTally() *tally {
@@ -555,6 +558,15 @@ func (p *pair) list(most int, b api.Ballot) []api.Slotted {
 	return l
 }
 
+// promised is what a promise brings: now and then with an entry that no store takes.
+func (p *pair) promised(b api.Ballot) []api.Slotted {
+	l := p.list(3, b)
+	if len(l) > 0 && p.src.below(4) == 0 {
+		l[p.src.below(len(l))].Entry = tooLong()
+	}
+	return l
+}
+
 // message is one that may come; now and then one that may not be.
 func (p *pair) message() api.Msg {
 	src, slot, b := p.src, p.slot(), p.ballot()
@@ -563,7 +575,7 @@ func (p *pair) message() api.Msg {
 	case k < 3:
 		m = prepare(b, slot)
 	case k < 7:
-		m = promise(b, slot, p.list(3, b)...)
+		m = promise(b, slot, p.promised(b)...)
 	case k < 8:
 		m = refuse(b)
 	case k < 12:
@@ -692,8 +704,9 @@ func runAtRandom(t *testing.T, seed uint64, moves int, sum *tally) {
 	src := source(seed)
 	p := newPair(t, &src, sum)
 	for i := range moves {
-		role := p.o.Role()
+		role, m, passed := p.o.Role(), p.m, p.m.passed
 		p.move()
+		p.passed += m.passed - passed
 		p.roles[p.o.Role()]++
 		if role == api.RoleLead && p.o.Role() == api.RoleFollow {
 			p.falls++
@@ -725,7 +738,7 @@ func TestReplicasAtRandom(t *testing.T) {
 			t.Errorf("%d times the error %d: too few to tell anything", sum.errs[err], err)
 		}
 	}
-	if sum.roles[api.RoleStand] < 5000 || sum.roles[api.RoleLead] < 5000 || sum.falls < 200 || sum.kinds[api.MsState] < 500 {
+	if sum.roles[api.RoleStand] < 5000 || sum.roles[api.RoleLead] < 5000 || sum.falls < 200 || sum.kinds[api.MsState] < 500 || sum.passed < 30 {
 		t.Errorf("%v: too few to tell anything", sum)
 	}
 }
